@@ -2,6 +2,8 @@
 package edges
 
 import (
+	"slices"
+
 	"crucible/api"
 	"crucible/name"
 	"crucible/paths"
@@ -19,4 +21,25 @@ func May(e api.Edge) bool {
 		}
 	}
 	return plain.May(e.Command, api.MaxEval) && (e.Pool == "" || name.May(e.Pool))
+}
+
+// Needs: which edges does each of them need (chapter 10)? Each is told once, and they rise.
+func Needs(es []api.Edge) [][]int {
+	needs := make([][]int, len(es))
+	for i, e := range es {
+		// An edge may take what it makes: then it needs itself.
+		for j, maker := range es {
+			if takesOf(e, maker.Outs) {
+				needs[i] = append(needs[i], j)
+			}
+		}
+	}
+	return needs
+}
+
+// takesOf: does the edge take one of these?
+func takesOf(e api.Edge, outs []string) bool {
+	return slices.ContainsFunc(outs, func(out string) bool {
+		return slices.Contains(e.Ins, out) || slices.Contains(e.Implicit, out) || slices.Contains(e.Order, out)
+	})
 }

@@ -77,3 +77,27 @@ func TestPoolsAndDeps(t *testing.T) {
 		want(t, e, false)
 	}
 }
+
+func wantNeeds(t *testing.T, es []api.Edge, want ...[]int) {
+	t.Helper()
+	if got := Needs(es); !slices.EqualFunc(got, want, slices.Equal[[]int]) {
+		t.Errorf("P10.1: %v: %v; want %v", es, got, want)
+	}
+}
+
+func TestNeeds(t *testing.T) {
+	wantNeeds(t, nil)
+	wantNeeds(t, []api.Edge{edge()}, nil)
+	a, b, c := api.Edge{Outs: []string{"a", "b"}}, api.Edge{Outs: []string{"c"}}, api.Edge{Outs: []string{"d"}}
+	wantNeeds(t, []api.Edge{a, b, c}, nil, nil, nil)
+	for k := 1; k < 4; k++ {
+		b := b
+		*lists(&b)[k] = []string{"x", "b"}
+		wantNeeds(t, []api.Edge{a, b, c}, nil, []int{0}, nil)
+		wantNeeds(t, []api.Edge{b, c, a}, []int{2}, nil, nil)
+		*lists(&b)[k] = []string{"d", "c", "b", "a", "d"}
+		wantNeeds(t, []api.Edge{a, b, c}, nil, []int{0, 1, 2}, nil)
+	}
+	c.Ins, c.Implicit, c.Order = []string{"c"}, []string{"a", "c"}, []string{"b", "a/b", "ab"}
+	wantNeeds(t, []api.Edge{c, a, b}, []int{1, 2}, nil, nil)
+}
